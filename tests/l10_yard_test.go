@@ -1113,6 +1113,36 @@ func (w *yardWalk) later() {
 	w.did["later"]++
 }
 
+// goesOn does by lot what needs no plan that comes.
+func (w *yardWalk) goesOn() {
+	switch lot := w.next(19); {
+	case lot < 7:
+		w.handOut()
+	case lot < 12:
+		w.isTold("done", impl.RunDone)
+	case lot < 14:
+		w.isTold("failed", impl.RunFails)
+	case lot < 15:
+		w.isLeft()
+	case lot < 17:
+		w.isForgotten()
+	case lot < 18:
+		w.moves()
+	default:
+		w.later()
+	}
+}
+
+// wantEnough asks that a walk did each of these often enough to say something of it.
+func wantEnough(t *testing.T, did map[string]int, words ...string) {
+	t.Helper()
+	for _, what := range words {
+		if did[what] < 30 {
+			t.Errorf("too few were %s: %v", what, did)
+		}
+	}
+}
+
 func TestPromiseOfYards(t *testing.T) {
 	seed := 29
 	next := func(below int) int {
@@ -1123,38 +1153,20 @@ func TestPromiseOfYards(t *testing.T) {
 	for range 30 {
 		w := &yardWalk{y: impl.YardNew(), next: next, did: did}
 		for range 150 {
-			switch lot := next(24); {
-			case lot < 5:
+			if next(24) < 5 {
 				w.comes()
-			case lot < 12:
-				w.handOut()
-			case lot < 17:
-				w.isTold("done", impl.RunDone)
-			case lot < 19:
-				w.isTold("failed", impl.RunFails)
-			case lot < 20:
-				w.isLeft()
-			case lot < 22:
-				w.isForgotten()
-			case lot < 23:
-				w.moves()
-			default:
-				w.later()
+			} else {
+				w.goesOn()
 			}
 			wantRight(t, "a step", w.y)
-			wantOnePointWrong(t, w.y, next)
+			wantOneYard(t, oneNumberOff(w.y, next))
 		}
 	}
-	for _, what := range []string{"comes", "handed out", "swept", "done", "failed", "left", "forgotten", "moved", "later"} {
-		if did[what] < 30 {
-			t.Errorf("too few were %s: %v", what, did)
-		}
-	}
+	wantEnough(t, did, "comes", "handed out", "swept", "done", "failed", "left", "forgotten", "moved", "later")
 }
 
-// wantOnePointWrong changes one number of a right yard, and asks whether it is right by the chapter's words.
-func wantOnePointWrong(t *testing.T, y impl.Yard, next func(below int) int) {
-	t.Helper()
+// oneNumberOff tells the yard with one of its numbers changed by 1, chosen by lot.
+func oneNumberOff(y impl.Yard, next func(below int) int) impl.Yard {
 	y = laidYard(y)
 	by := 1 - 2*next(2)
 	switch shelf := next(4); next(7) {
@@ -1174,5 +1186,5 @@ func wantOnePointWrong(t *testing.T, y impl.Yard, next func(below int) int) {
 			*[]*int{&r.Id, &r.Plan.Prio, &r.Plan.Wait, &r.State, &task.State, &task.Need, &task.Try, &task.Until}[next(8)] += by
 		}
 	}
-	wantOneYard(t, y)
+	return y
 }
